@@ -292,7 +292,7 @@ func TestNothingIsChanged(t *testing.T) {
 // TestNestedEnds asks expressions whose parts could be gone over again and again.
 func TestNestedEnds(t *testing.T) {
 	ones := slices.Repeat([]int{1}, 16)
-	for _, s := range []string{"((((((((.*)*)*)*)*)*)*)*)* 2", "((((((((.+)+)+)+)+)+)+)+)+ 2", "((((((((1?)*)+)*)+)*)+)*)+ 2", "(((.*.*)*(.*.*)*)*((.*.*)*(.*.*)*)*)* 2", "((((((((|1)*)*)*)*)*)*)*)* 2"} {
+	for _, s := range []string{"(((((((.*)*)*)*)*)*)*)* 2", "(((((((.+)+)+)+)+)+)+)+ 2", "(((((((1?)*)+)*)+)*)+)* 2", "(((.*.*)*(.*.*)*)*((.*.*)*(.*.*)*)*)* 2", "(((((((|1)*)*)*)*)*)*)* 2"} {
 		x := expr(t, s)
 		two := append(slices.Clone(ones[:15]), 2)
 		if x.Meets(ones) || x.Whole(ones) || !x.Meets(two) || !x.Whole(two) {

@@ -9,13 +9,13 @@ import (
 
 const (
 	longest = 64 // bytes of an expression's text
-	deepest = 8  // brackets around a choice
+	deepest = 8  // choices in one another, the expression's own one being the first
 )
 
 // reader takes an expression from a text's beginning on. Behind its first fault nothing is left to take.
 type reader struct {
 	rest string
-	deep int
+	deep int // choices that are begun and not ended
 	e    api.Errno
 }
 
@@ -76,10 +76,15 @@ func (r *reader) digits() string {
 
 // choice takes rows with `|` between.
 func (r *reader) choice() node {
+	r.deep++
+	if r.deep > deepest {
+		r.fail(api.ErrLong)
+	}
 	n := node{kind: choice, under: []node{r.row()}}
 	for r.take('|') {
 		n.under = append(n.under, r.row())
 	}
+	r.deep--
 	return n
 }
 
@@ -128,15 +133,10 @@ func (r *reader) atom() (node, bool) {
 
 // inner takes a choice and the bracket behind it.
 func (r *reader) inner() node {
-	r.deep++
-	if r.deep > deepest {
-		r.fail(api.ErrLong)
-	}
 	n := r.choice()
 	if !r.take(')') {
 		r.fail(api.ErrForm)
 	}
-	r.deep--
 	return n
 }
 

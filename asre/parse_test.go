@@ -43,14 +43,14 @@ func TestParseWrong(t *testing.T) {
 
 // TestFirstFault has texts that are wrong in more than one way.
 func TestFirstFault(t *testing.T) {
-	deep := strings.Repeat("(", 9)
+	deep := strings.Repeat("(", 8) // the eighth bracket begins the ninth choice
 	for e, texts := range map[api.Errno][]string{
 		api.ErrForm: {
 			"a 0", "01 0", "* 0", "1** 0", ") 0", "] 0", "[] 0", "[-0]", "[1--0]", "[1-2-0]", "[.0]", "^^0", "1^0", "1$ $0", "$$0", "-0", "1-0",
-			"[01-0]", "[1-01 0]", "[02-01]", "[2-01", "(1] 0", "[1)0", "x" + deep, "01" + deep, ")" + deep, "1**" + deep, "[(" + deep, "((((((((*(", "((((((((01(", "\x000", "$" + deep, "$0", "$65536", "^$0",
+			"[01-0]", "[1-01 0]", "[02-01]", "[2-01", "(1] 0", "[1)0", "x" + deep, "01" + deep, ")" + deep, "1**" + deep, "[(" + deep, "(((((((*(", "(((((((01(", "(((((((](", "(((((((a(", "\x000", "$" + deep, "$0", "$65536", "^$0",
 		},
 		api.ErrRange: {
-			"0 a", "0 01", "0 **", "0**", "0)", "0]", "(0", "[0", "[0-", "[0--", "[0-01]", "[2-1", "[2-1 ", "[2-1-", "[2-1 01]", "[65536-a", "[65536-01]", "0$1", "0^", "(((0", "(0**)", "0" + deep, "[2-1]" + deep, "((((((((0(", "0\x00", "65536a",
+			"0 a", "0 01", "0 **", "0**", "0)", "0]", "(0", "[0", "[0-", "[0--", "[0-01]", "[2-1", "[2-1 ", "[2-1-", "[2-1 01]", "[65536-a", "[65536-01]", "0$1", "0^", "(((0", "(0**)", "0" + deep, "[2-1]" + deep, "(((((((0(", "(((((((65536(", "(((((((2 [2-1](", "0\x00", "65536a",
 		},
 		api.ErrLong: {
 			deep, deep + "0", deep + "01", deep + "*", deep + "a", deep + ")", deep + "[2-1]", deep + "[", deep + "$", deep + "^", "1" + deep + "0", deep + deep, "(" + deep,
@@ -88,32 +88,54 @@ func TestLength(t *testing.T) {
 	expr(t, expr(t, strings.Repeat(".", 32)).Text())
 }
 
+// within is a choice of a text, and so many choices in one another in all: the outermost one, the expression's own, has no brackets.
+func within(choices int, s string) string {
+	return strings.Repeat("(", choices-1) + s + strings.Repeat(")", choices-1)
+}
+
 func TestDepth(t *testing.T) {
-	within := func(deep int, s string) string {
-		return strings.Repeat("(", deep) + s + strings.Repeat(")", deep)
-	}
-	for _, s := range []string{"", "1", "1|2", ".*"} {
-		for deep := range 9 {
-			text := within(deep, s)
-			if got := expr(t, text).Text(); got != text {
-				t.Errorf("Text of %q: %q", text, got)
+	for _, s := range []string{"", "1", "1|2", ".*", "[1 2-3]"} {
+		for choices := 1; choices <= 8; choices++ {
+			for _, text := range []string{within(choices, s), "^" + within(choices, s) + "$", "1|" + within(choices, s)} {
+				if got := expr(t, text).Text(); got != text {
+					t.Errorf("Text of %q: %q", text, got)
+				}
 			}
 		}
-		for _, deep := range []int{9, 10, 30} {
-			refused(t, within(deep, s), api.ErrLong)
+		for choices := 9; choices <= 28; choices++ {
+			text := within(choices, s)
+			for _, wrong := range []string{text, "^" + text + "$", "1|" + text, text + "*", text + ")"} {
+				refused(t, wrong, api.ErrLong)
+			}
 		}
 	}
-	side := within(8, "1") + "|" + within(8, "2")
-	if got := expr(t, side).Text(); got != side {
-		t.Errorf("Text of %q: %q", side, got)
+	for brackets := 1; brackets <= 7; brackets++ {
+		refused(t, strings.Repeat("(", brackets), api.ErrForm)
 	}
-	expr(t, "(((((((()())))))))()")
-	expr(t, "((((((((1)*)+)?)*)+)?)*)+")
-	expr(t, "(1(2(3(4(5(6(7(8[9]))))))))")
-	refused(t, within(8, "1")+within(9, "2"), api.ErrLong)
-	refused(t, "1|(2|(3|(4|(5|(6|(7|(8|(9|(10)))))))))", api.ErrLong)
-	refused(t, "((((((((", api.ErrForm)
-	refused(t, "(((((((()(", api.ErrForm)
+	for brackets := 8; brackets <= 64; brackets++ {
+		refused(t, strings.Repeat("(", brackets), api.ErrLong)
+		refused(t, strings.Repeat("( ", brackets), api.ErrLong)
+	}
+}
+
+// TestDepthSideBySide has choices beside others: one that is shut counts no more.
+func TestDepthSideBySide(t *testing.T) {
+	for _, s := range []string{
+		within(8, "1") + "|" + within(8, "2"), within(8, "1") + " " + within(8, "2"), within(7, "() () ()"), within(1, "() () () () () () () () ()"),
+		"(((((((1)*)+)?)*)+)?)*", "(1 (2 (3 (4 (5 (6 (7 [8])))))))", "1|(2|(3|(4|(5|(6|(7|(8)))))))",
+	} {
+		if got := expr(t, s).Text(); got != s {
+			t.Errorf("Text of %q: %q", s, got)
+		}
+	}
+	for _, s := range []string{
+		within(8, "1") + within(9, "2"), within(9, "1") + within(8, "2"), within(8, "1|(2)"), within(8, "1)((2)"),
+		"((((((((1)*)+)?)*)+)?)*)+", "(1 (2 (3 (4 (5 (6 (7 (8))))))))", "1|(2|(3|(4|(5|(6|(7|(8|(9))))))))",
+	} {
+		refused(t, s, api.ErrLong)
+	}
+	refused(t, "((((((()(", api.ErrForm)
+	refused(t, "((((((()()(", api.ErrForm)
 }
 
 func TestNumbersAtEdges(t *testing.T) {
@@ -171,27 +193,27 @@ func judge(s string) api.Errno {
 	if len(s) > 64 {
 		return api.ErrLong
 	}
-	state, deep, from := begin, 0, 0
+	state, choices, from := begin, 1, 0
 	for i := 0; i < len(s); i++ {
 		inRow := state <= behind
 		switch c := s[i]; {
 		case c == ' ':
 		case c == '^' && state == begin:
 			state = items
-		case c == '$' && inRow && deep == 0:
+		case c == '$' && inRow && choices == 1:
 			state = over
 		case c == '|' && inRow:
 			state = items
 		case c == '.' && inRow:
 			state = behind
-		case c == '(' && inRow && deep == 8:
+		case c == '(' && inRow && choices == 8:
 			return api.ErrLong
 		case c == '(' && inRow:
 			state = items
-			deep++
-		case c == ')' && inRow && deep > 0:
+			choices++
+		case c == ')' && inRow && choices > 1:
 			state = behind
-			deep--
+			choices--
 		case strings.ContainsRune("*+?", rune(c)) && state == behind:
 			state = items
 		case c == '[' && inRow:
@@ -225,7 +247,7 @@ func judge(s string) api.Errno {
 			return api.ErrForm
 		}
 	}
-	if deep > 0 || state == members || state == member || state == dash || state == pair {
+	if choices > 1 || state == members || state == member || state == dash || state == pair {
 		return api.ErrForm
 	}
 	return api.OK
@@ -253,7 +275,7 @@ func TestParseOfAllSmallTexts(t *testing.T) {
 	grow("", "^$|*.[]()-120 ", 5)
 	grow("", "[]-012 ", 7)
 	grow("", "()|+1^$", 7)
-	grow("(((((((", "()0*1", 5)
+	grow("((((((", "()0*1", 6)
 	grow(strings.Repeat(" ", 62), "()1*$x", 4)
 	grow("6553", "0123456789 ]", 3)
 }
